@@ -88,7 +88,7 @@ func expectLeads(t *testing.T, name string, pages [][]byte, c impl.Change, got i
 			t.Errorf("%s: edit %d turns nothing", name, k)
 		}
 		now = withEdit(now, e)
-		if applied := impl.ApplyEdits(pages, got.Edits[:k+1]); applied.Code != impl.OK || !samePages(applied.Pages, now) {
+		if applied := impl.ApplyEdits(pages, got.Edits[:k+1]); applied.Code != impl.OK || !sameEdits(applied.Edits, got.Edits[:k+1]) || !samePages(applied.Pages, now) {
 			t.Fatalf("%s: ApplyEdits of the first %d = %+v, want %v", name, k+1, applied, now)
 		}
 		seen := impl.RowsIn(now)
@@ -1052,10 +1052,24 @@ func TestEditsForPassesByWhatIsNotSaid(t *testing.T) {
 	}
 }
 
+// turning are the edits that turn something, each one as pages are then. It asks nothing of the program.
+func turning(pages [][]byte, edits []impl.Edit) []impl.Edit {
+	var kept []impl.Edit
+	for _, e := range edits {
+		if int(e.Page) == len(pages) || !bytes.Equal(pages[e.Page], e.Bytes) {
+			kept = append(kept, e)
+		}
+		pages = withEdit(pages, e)
+	}
+	return kept
+}
+
+// expectApplied asks for all edits that turn something, and for the pages that come of them.
 func expectApplied(t *testing.T, name string, pages [][]byte, edits []impl.Edit, want [][]byte) {
 	t.Helper()
-	if got := impl.ApplyEdits(pages, edits); got.Code != impl.OK || len(got.Edits) != 0 || !samePages(got.Pages, want) {
-		t.Errorf("%s: ApplyEdits = %+v, want %v", name, got, want)
+	kept := turning(pages, edits)
+	if got := impl.ApplyEdits(pages, edits); got.Code != impl.OK || !sameEdits(got.Edits, kept) || !samePages(got.Pages, want) {
+		t.Errorf("%s: ApplyEdits = %+v, want %v and %v", name, got, kept, want)
 	}
 }
 
@@ -1119,6 +1133,84 @@ func TestApplyEditsOneBehindTheOther(t *testing.T) {
 	expectApplied(t, "all pages of all", brimPages(t, 12), all, filledPages(12))
 	expectApplyEditsCode(t, "one too many", nil, append(slices.Clone(all), impl.Edit{Page: 12, Bytes: filled(1)}), impl.ErrMany)
 	expectApplyEditsCode(t, "one too many, of 11", filledPages(11), []impl.Edit{{Page: 11, Bytes: filled(1)}, {Page: 12, Bytes: filled(1)}}, impl.ErrMany)
+}
+
+func TestApplyEditsTellsItsEdits(t *testing.T) {
+	edit := func(page int64, b byte) impl.Edit { return impl.Edit{Page: page, Bytes: filled(b)} }
+	two := [][]byte{filled(1), filled(2)}
+	for _, c := range []struct {
+		name        string
+		pages       [][]byte
+		given, want []impl.Edit
+		then        [][]byte
+	}{
+		{"none", two, nil, nil, two},
+		{"one", two, []impl.Edit{edit(1, 5)}, []impl.Edit{edit(1, 5)}, [][]byte{filled(1), filled(5)}},
+		{"falling pages", two, []impl.Edit{edit(1, 5), edit(0, 6)}, []impl.Edit{edit(1, 5), edit(0, 6)}, [][]byte{filled(6), filled(5)}},
+		{"rising pages", two, []impl.Edit{edit(0, 6), edit(1, 5)}, []impl.Edit{edit(0, 6), edit(1, 5)}, [][]byte{filled(6), filled(5)}},
+		{"new pages", two, []impl.Edit{edit(2, 5), edit(3, 6)}, []impl.Edit{edit(2, 5), edit(3, 6)}, [][]byte{filled(1), filled(2), filled(5), filled(6)}},
+		{"one page again and again", two, []impl.Edit{edit(0, 5), edit(0, 6), edit(0, 7)}, []impl.Edit{edit(0, 5), edit(0, 6), edit(0, 7)}, [][]byte{filled(7), filled(2)}},
+		{"there and back", two, []impl.Edit{edit(0, 5), edit(0, 1)}, []impl.Edit{edit(0, 5), edit(0, 1)}, two},
+		{"nothing turned", two, []impl.Edit{edit(0, 1), edit(1, 2)}, nil, two},
+		{"nothing turned ahead", two, []impl.Edit{edit(0, 1), edit(1, 5)}, []impl.Edit{edit(1, 5)}, [][]byte{filled(1), filled(5)}},
+		{"nothing turned behind", two, []impl.Edit{edit(1, 5), edit(0, 1)}, []impl.Edit{edit(1, 5)}, [][]byte{filled(1), filled(5)}},
+		{"the same twice", two, []impl.Edit{edit(1, 5), edit(1, 5), edit(0, 5)}, []impl.Edit{edit(1, 5), edit(0, 5)}, [][]byte{filled(5), filled(5)}},
+		{"a new page twice", two, []impl.Edit{edit(2, 5), edit(2, 5)}, []impl.Edit{edit(2, 5)}, [][]byte{filled(1), filled(2), filled(5)}},
+		{"a new page of zeros", two, []impl.Edit{edit(2, 0)}, []impl.Edit{edit(2, 0)}, [][]byte{filled(1), filled(2), filled(0)}},
+		{"the first page", nil, []impl.Edit{edit(0, 5)}, []impl.Edit{edit(0, 5)}, [][]byte{filled(5)}},
+	} {
+		if got := impl.ApplyEdits(c.pages, c.given); got.Code != impl.OK || !sameEdits(got.Edits, c.want) || !samePages(got.Pages, c.then) {
+			t.Errorf("%s: ApplyEdits = %+v, want %v and %v", c.name, got, c.want, c.then)
+		}
+		for _, wrong := range []impl.Edit{{Page: 0}, edit(-1, 5), edit(9, 5)} {
+			expectApplyEditsCode(t, c.name+" and a wrong one", c.pages, append(slices.Clone(c.given), wrong), impl.ErrForm)
+		}
+	}
+}
+
+// A page that is new turns something, even where it is empty as any new page is.
+func TestApplyEditsOfAnEmptyNewPage(t *testing.T) {
+	empty := impl.NewPage(0).Page
+	var pages [][]byte
+	for number := range int64(12) {
+		got := impl.ApplyEdits(pages, []impl.Edit{{Page: number, Bytes: empty}, {Page: number, Bytes: empty}})
+		pages = append(pages, empty)
+		if got.Code != impl.OK || !sameEdits(got.Edits, []impl.Edit{{Page: number, Bytes: empty}}) || !samePages(got.Pages, pages) {
+			t.Errorf("page %d: ApplyEdits = %+v", number, got)
+		}
+	}
+	expectApplyEditsCode(t, "one too many", pages, []impl.Edit{{Page: 12, Bytes: empty}}, impl.ErrMany)
+}
+
+// Edits of few bytes turn nothing now and then, and some are wrong: the first of those tells its code.
+func TestApplyEditsOfManyLists(t *testing.T) {
+	next := numbers(23)
+	for range 4000 {
+		pages := filledPages(next(13))
+		var edits []impl.Edit
+		want, code := clonePages(pages), int64(impl.OK)
+		for range next(8) {
+			e := impl.Edit{Page: int64(next(len(want) + 1)), Bytes: filled(byte(100 + next(4)))}
+			if next(40) == 0 {
+				e.Page = int64(len(want)) + 1
+			}
+			edits = append(edits, e)
+			switch {
+			case code != impl.OK:
+			case e.Page > int64(len(want)):
+				code = impl.ErrForm
+			case e.Page == 12:
+				code = impl.ErrMany
+			default:
+				want = withEdit(want, e)
+			}
+		}
+		if code != impl.OK {
+			expectApplyEditsCode(t, "many", pages, edits, code)
+			continue
+		}
+		expectApplied(t, "many", pages, edits, want)
+	}
 }
 
 // Pages are taken as they are: even what is none stays, or is turned by an edit.
@@ -1316,7 +1408,7 @@ func TestEditsDoNotFollow(t *testing.T) {
 			t.Errorf("%s: the answer turns with what was handed in", name)
 		}
 	}
-	counts := map[string]int{"InsertEdits in pieces": 2, "InsertEdits, a new page": 1, "UpdateEdits of the same": 0, "UpdateEdits, a third page": 4, "UpdateEdits, a new page": 3, "UpdateEdits in vain": 4, "DeleteEdits of a stub": 2, "EditsFor a turn": 4}
+	counts := map[string]int{"InsertEdits in pieces": 2, "InsertEdits, a new page": 1, "UpdateEdits of the same": 0, "UpdateEdits, a third page": 4, "UpdateEdits, a new page": 3, "UpdateEdits in vain": 4, "DeleteEdits of a stub": 2, "EditsFor a turn": 4, "ApplyEdits": 3, "ApplyEdits of none": 0}
 	for name, count := range counts {
 		if len(want[name].Edits) != count || len(want[name].Pages) < 3 && name != "InsertEdits, a new page" {
 			t.Errorf("%s: %d edits, want %d", name, len(want[name].Edits), count)
@@ -1336,7 +1428,10 @@ func TestEditsOfSharedMemory(t *testing.T) {
 	expectChange(t, "one page three times", pages, put(rowOf(1, 1, 1, "")), stepsOn(t, pages).put(0, 1, rowCell(1, 1, 1, "")).edits...)
 	page := filled(1)
 	expectApplied(t, "an edit of a page's own bytes", [][]byte{page, filled(2)}, []impl.Edit{{Page: 1, Bytes: page}, {Page: 2, Bytes: page}}, [][]byte{filled(1), filled(1), filled(1)})
-	got := impl.ApplyEdits([][]byte{page, page}, []impl.Edit{{Page: 1, Bytes: page}, {Page: 2, Bytes: page}})
+	got := impl.ApplyEdits([][]byte{page, filled(2), page}, []impl.Edit{{Page: 1, Bytes: page}, {Page: 3, Bytes: page}, {Page: 2, Bytes: page}})
+	if len(got.Edits) != 2 || len(got.Pages) != 4 {
+		t.Errorf("one list everywhere: %+v", got)
+	}
 	expectEditsApart(t, "one list everywhere", got)
 	if !bytes.Equal(data, kept) || !bytes.Equal(page, filled(1)) {
 		t.Error("what was handed in was changed")
