@@ -49,13 +49,13 @@ func expectedListFault(list []impl.Change) int64 {
 	if len(list) > maxFolded {
 		return impl.ErrMany
 	}
-	for _, c := range list {
+	for i, c := range list {
 		if code := expectedAlone(c); code != impl.OK {
 			return code
 		}
-	}
-	if !rises(list) {
-		return impl.ErrForm
+		if !rises(list[:i+1]) {
+			return impl.ErrForm
+		}
 	}
 	return impl.OK
 }
@@ -301,15 +301,59 @@ func TestFoldChangeOfWhatDoesNotRise(t *testing.T) {
 		for _, c := range []impl.Change{put(rowOf(3, 9, 9, "")), put(a), drop(a), put(low), {}, put(impl.Row{}), put(rowOf(1, 1, 1, "A"))} {
 			expectFoldCode(t, name, list, c, impl.ErrForm)
 		}
-		// Each change is asked by itself ahead of whether they rise.
 		for other, f := range wrongAlone() {
-			expectFoldCode(t, name+", then "+other, append(slices.Clone(list), f.change), put(a), f.code)
+			expectFoldCode(t, name+", then "+other, append(slices.Clone(list), f.change), put(a), impl.ErrForm)
+			expectFoldCode(t, other+", then "+name, append([]impl.Change{f.change}, list...), put(a), f.code)
 		}
 	}
 	many := putsOf(manyRows(0, maxFolded, 1))
 	many[58], many[59] = many[59], many[58]
 	expectFoldCode(t, "the last of 60", many, put(a), impl.ErrForm)
 	expectFoldCode(t, "61 that do not rise", append(many, put(low)), put(a), impl.ErrMany)
+}
+
+// lowChanges have the key 1/20 and a fault of their own that is not ErrForm, so that it is told apart from
+// whether they rise.
+func lowChanges() map[string]faultyChange {
+	right, val, text := rowOf(1, 20, 1, "a"), rowOf(1, 20, 1000, "a"), rowOf(1, 20, 1, "A")
+	return map[string]faultyChange{
+		"a put of a Val":    {put(val), impl.ErrRange},
+		"a drop of a Val":   {drop(val), impl.ErrRange},
+		"a turn into a Val": {turn(right, val), impl.ErrRange},
+		"a put of a Text":   {put(text), impl.ErrText},
+		"a drop of a Text":  {drop(text), impl.ErrText},
+		"a turn of a Text":  {turn(text, right), impl.ErrText},
+		"the same row":      {turn(text, text), impl.ErrText},
+	}
+}
+
+// Each change is asked its own codes and then whether it rises, ahead of the next one.
+func TestFoldChangeAsksOneByOneWhetherTheyRise(t *testing.T) {
+	high, low, c := put(rowOf(1, 50, 1, "a")), put(rowOf(1, 30, 1, "a")), put(rowOf(3, 9, 9, ""))
+	expect := func(name string, code int64, list ...impl.Change) {
+		t.Helper()
+		if model := expectedListFault(list); model != code {
+			t.Fatalf("%s: the model has code %d, want %d", name, model, code)
+		}
+		expectFoldCode(t, name, list, c, code)
+		expectMinerFault(t, name, minerOf(nil, bufferOf(1, list...)), code)
+		expectMinerFault(t, name+", of the last one", minerOf(nil, bufferOf(2, high), bufferOf(1, list...)), code)
+	}
+	for name, f := range lowChanges() {
+		expect("one that does not rise, then "+name, impl.ErrForm, high, low, f.change)
+		expect("one twice, then "+name, impl.ErrForm, high, high, f.change)
+		expect(name+" ahead of one that does not rise", f.code, f.change, high, low)
+		expect(name+" just ahead of one that does not rise", f.code, low, f.change, put(rowOf(1, 10, 1, "")))
+		expect(name+", which does not rise itself", f.code, high, f.change)
+		expect(name+", which does not rise itself, then one more", f.code, low, high, f.change, low)
+		expect(name+" twice", f.code, f.change, f.change)
+		many := putsOf(manyRows(150, maxFolded, 1))
+		expect(name+", the 60th, which does not rise itself", f.code, append(slices.Clone(many[:59]), f.change)...)
+		expect(name+", the 60th, behind one that does not rise", impl.ErrForm, slices.Concat(many[:57], []impl.Change{many[58], many[57], f.change})...)
+	}
+	wrong := put(rowOf(4, 1, 3, "ab"))
+	expect("a Table that is none, behind one that does not rise", impl.ErrForm, high, low, wrong)
+	expect("a Table that is none, ahead of one that does not rise", impl.ErrRange, high, wrong, low)
 }
 
 // Without Was nobody looks at Before, nor at After without Is.

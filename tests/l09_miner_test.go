@@ -184,7 +184,9 @@ func faultyBuffers() map[string]struct {
 	add("the same row", impl.ErrForm, bufferOf(60, turn(a, a)))
 	add("one twice", impl.ErrForm, bufferOf(60, put(a), drop(a)))
 	add("what does not rise", impl.ErrForm, bufferOf(60, put(a), put(rowOf(1, 49, 1, ""))))
-	add("a fault behind what does not rise", impl.ErrText, bufferOf(60, put(a), put(rowOf(1, 49, 1, "")), put(rowOf(1, 48, 1, "A"))))
+	add("a fault behind what does not rise", impl.ErrForm, bufferOf(60, put(a), put(rowOf(1, 49, 1, "")), put(rowOf(1, 48, 1, "A"))))
+	add("a fault ahead of what does not rise", impl.ErrText, bufferOf(60, put(rowOf(1, 48, 1, "A")), put(a), put(rowOf(1, 49, 1, ""))))
+	add("a fault of what does not rise", impl.ErrText, bufferOf(60, put(a), put(rowOf(1, 49, 1, "A"))))
 	return list
 }
 
@@ -262,7 +264,7 @@ func TestNewMiner(t *testing.T) {
 	}
 }
 
-// expectRecordApplied asks for the pages with these runs, and for the edit that leads there, if it turns something.
+// expectRecordApplied asks for the pages with these runs, and for no edits: nobody is told how it came to them.
 func expectRecordApplied(t *testing.T, name string, pages [][]byte, r impl.Record) {
 	t.Helper()
 	want := impl.EditsResult{Pages: clonePages(pages)}
@@ -275,8 +277,7 @@ func expectRecordApplied(t *testing.T, name string, pages [][]byte, r impl.Recor
 		for _, run := range r.Runs {
 			copy(data[run.At:], run.Bytes)
 		}
-		e := impl.Edit{Page: r.Page, Bytes: data}
-		want.Edits, want.Pages = turning(pages, []impl.Edit{e}), withEdit(pages, e)
+		want.Pages = withEdit(pages, impl.Edit{Page: r.Page, Bytes: data})
 	}
 	kept, keptRecord := clonePages(pages), cloneRecord(r)
 	if got := impl.ApplyRecord(pages, r); !sameEditsResult(got, want) {
@@ -333,7 +334,26 @@ func make12(t *testing.T, page []byte) [][]byte {
 	return pages
 }
 
-// What would turn nothing is no edit; a new page is one, whatever its bytes are.
+// One byte turns, in a page that is there or a new one: Pages tell it, and there are no Edits.
+func TestApplyRecordTellsNoEdits(t *testing.T) {
+	for _, kind := range kindsOfRuns {
+		r := record(kind, 3, 0, run(63, 5))
+		page, fresh := make([]byte, 64), impl.NewPage(0).Page
+		for _, pages := range [][][]byte{nil, {}, {page}, {fresh}} {
+			expectRecordApplied(t, "one byte", pages, r)
+			if got := impl.ApplyRecord(pages, r); got.Code != impl.OK || len(got.Edits) != 0 || len(got.Pages) != 1 || got.Pages[0][63] != 5 {
+				t.Errorf("of %d pages: %+v", len(pages), got)
+			}
+		}
+	}
+	for _, kind := range kindsOfTx {
+		if got := impl.ApplyRecord(filledPages(2), record(kind, 3, 0)); got.Code != impl.OK || len(got.Edits) != 0 || len(got.Pages) != 2 {
+			t.Errorf("nothing turns: %+v", got)
+		}
+	}
+}
+
+// What turns nothing leaves the pages; a new page stands there, whatever its bytes are.
 func TestApplyRecordThatTurnsNothing(t *testing.T) {
 	pages := filledPages(3)
 	fresh := impl.NewPage(0).Page
@@ -348,7 +368,7 @@ func TestApplyRecordThatTurnsNothing(t *testing.T) {
 	}
 	for _, r := range []impl.Record{image(3, fresh), record(impl.RecDelta, 1, 3, run(63, 0)), record(impl.RecComp, 1, 3, run(0, 0, 64))} {
 		expectRecordApplied(t, "a new page as it is", pages, r)
-		if got := impl.ApplyRecord(pages, r); len(got.Edits) != 1 || len(got.Pages) != 4 || !bytes.Equal(got.Pages[3], fresh) || !bytes.Equal(got.Edits[0].Bytes, fresh) {
+		if got := impl.ApplyRecord(pages, r); len(got.Edits) != 0 || len(got.Pages) != 4 || !bytes.Equal(got.Pages[3], fresh) {
 			t.Errorf("a new page as it is: %+v", got)
 		}
 	}
